@@ -106,3 +106,11 @@ func wantList(t *testing.T, call string, got []int, gotOK bool, want []int, ok b
 		t.Errorf("%s returned %v, %v; want %v, %v", call, got, gotOK, want, ok)
 	}
 }
+
+// wantNumber checks a number and the bool behind it; what fails is told by a false ok and a want of 0.
+func wantNumber(t *testing.T, call string, got int, gotOK bool, want int, ok bool) {
+	t.Helper()
+	if got != want || gotOK != ok {
+		t.Errorf("%s returned %d, %v; want %d, %v", call, got, gotOK, want, ok)
+	}
+}
